@@ -19,6 +19,44 @@ func TestByKey(t *testing.T) {
 	}
 }
 
+func TestTooLong(t *testing.T) {
+	for long, want := range map[int]bool{0: false, 1: false, api.MaxKey: false, api.MaxKey + 1: true} {
+		if got := TooLong(api.Pair{Key: make([]byte, long)}); got != want {
+			t.Errorf("TooLong of %d bytes: %v", long, got)
+		}
+	}
+}
+
+func TestCheck(t *testing.T) {
+	long := string(bytes.Repeat([]byte{0xff}, api.MaxKey+1))
+	for _, x := range []struct {
+		ks   []string
+		want api.Errno
+	}{
+		{nil, api.OK},
+		{[]string{""}, api.OK},
+		{[]string{"", "a", "ab", "b", long[1:]}, api.OK},
+		{[]string{"a", "a"}, api.ErrOrder},
+		{[]string{"", ""}, api.ErrOrder},
+		{[]string{"a", "b", "ab"}, api.ErrOrder},
+		{[]string{"ab", "a"}, api.ErrOrder},
+		{[]string{long}, api.ErrLong},
+		{[]string{"b", "a", long}, api.ErrLong},
+		{[]string{long, "a"}, api.ErrLong},
+	} {
+		var ps []api.Pair
+		for _, k := range x.ks {
+			ps = append(ps, api.Pair{Key: []byte(k)})
+		}
+		if got := Check(ps); got != x.want {
+			t.Errorf("Check of %.40q: %d, not %d", x.ks, got, x.want)
+		}
+		if got := Rise(ps); x.want != api.ErrLong && got != (x.want == api.OK) {
+			t.Errorf("Rise of %.40q: %v", x.ks, got)
+		}
+	}
+}
+
 func TestOwn(t *testing.T) {
 	room := []byte("abc")
 	p := api.Pair{Key: room[:2], Val: 7}
