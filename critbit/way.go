@@ -4,6 +4,7 @@ import (
 	"iter"
 	"math"
 
+	"bramble/api"
 	"bramble/key"
 )
 
@@ -46,11 +47,11 @@ func (t *Tree) way(k []byte, at int) iter.Seq2[uint32, int] {
 	}
 }
 
-// leaves goes over the leaves by rising keys, from the i-th one on.
-func (t *Tree) leaves(i int) iter.Seq[uint32] {
-	return func(yield func(uint32) bool) {
+// rising goes over the pairs by rising keys, from the i-th one on.
+func (t *Tree) rising(i int) iter.Seq[api.Pair] {
+	return func(yield func(api.Pair) bool) {
 		for h := range t.shown(i) {
-			if !t.inner(h) && !yield(h) {
+			if !t.inner(h) && !yield(t.pair(h)) {
 				return
 			}
 		}

@@ -2,6 +2,7 @@
 package pairs
 
 import (
+	"iter"
 	"slices"
 
 	"bramble/api"
@@ -36,6 +37,15 @@ func Check(ps []api.Pair) api.Errno {
 	return api.OK
 }
 
+// Shared tells how many bytes a and b begin with in common.
+func Shared(a []byte, b []byte) int {
+	n := 0
+	for n < min(len(a), len(b)) && a[n] == b[n] {
+		n++
+	}
+	return n
+}
+
 // Own makes a pair like p with a key of its own.
 func Own(p api.Pair) api.Pair {
 	// To the byte as long as it is: no room is left to write behind its end.
@@ -51,4 +61,27 @@ func OwnAll(ps []api.Pair) []api.Pair {
 		own[i] = Own(p)
 	}
 	return own
+}
+
+// First tells the first of these pairs, if there is one.
+func First(ps iter.Seq[api.Pair]) (api.Pair, bool) {
+	for p := range ps {
+		return p, true
+	}
+	return api.Pair{}, false
+}
+
+// Firsts lists the first of these pairs, at most so many.
+func Firsts(ps iter.Seq[api.Pair], most int) []api.Pair {
+	var first []api.Pair
+	if most <= 0 {
+		return nil
+	}
+	for p := range ps {
+		first = append(first, p)
+		if len(first) == most {
+			break
+		}
+	}
+	return first
 }

@@ -90,3 +90,47 @@ func TestOwnAll(t *testing.T) {
 		t.Errorf("R4: OwnAll shares memory with what it was given: %v", ps)
 	}
 }
+
+func TestShared(t *testing.T) {
+	for _, x := range []struct {
+		a, b string
+		want int
+	}{{"", "", 0}, {"", "a", 0}, {"a", "a", 1}, {"a", "b", 0}, {"ab", "abc", 2}, {"abd", "abc", 2}, {"ab\x00", "ab", 2}, {"xbc", "abc", 0}, {"a longer way to go", "a longer way", 12}} {
+		if got := Shared([]byte(x.a), []byte(x.b)); got != x.want {
+			t.Errorf("Shared(%q, %q): %d, not %d", x.a, x.b, got, x.want)
+		}
+		if got := Shared([]byte(x.b), []byte(x.a)); got != x.want {
+			t.Errorf("Shared(%q, %q): %d, not %d", x.b, x.a, got, x.want)
+		}
+	}
+}
+
+func TestFirst(t *testing.T) {
+	for n := range 4 {
+		var told int
+		ps := func(yield func(api.Pair) bool) {
+			for told = 0; told < n; {
+				told++
+				if !yield(api.Pair{Val: uint64(told)}) {
+					return
+				}
+			}
+		}
+		if p, ok := First(ps); ok != (n > 0) || p.Val != uint64(min(n, 1)) || told != min(n, 1) {
+			t.Errorf("First of %d: %d, %v; %d were told", n, p.Val, ok, told)
+		}
+		for most := -2; most < 6; most++ {
+			told = 0
+			want := max(0, min(n, most))
+			got := Firsts(ps, most)
+			if len(got) != want || told != want {
+				t.Errorf("Firsts of %d, at most %d: %d; %d were told", n, most, len(got), told)
+			}
+			for i, p := range got {
+				if p.Val != uint64(i+1) {
+					t.Errorf("Firsts of %d, at most %d: the %d-th is %d", n, most, i, p.Val)
+				}
+			}
+		}
+	}
+}

@@ -196,6 +196,41 @@ func TestDropOrders(t *testing.T) {
 	})
 }
 
+// A choice among all bytes there are, put and dropped in unlike orders, alone
+// and behind some bytes; of a choice among few, too.
+func TestAllBytes(t *testing.T) {
+	each(t, func(t *testing.T, x kind) {
+		for _, n := range []int{1, 2, 5, 17, 49, 255, 256} {
+			for what, at := range map[string]func(i int) int{
+				"rising":  func(i int) int { return i },
+				"falling": func(i int) int { return n - 1 - i },
+				"mixed":   func(i int) int { return i * 101 % n },
+			} {
+				for _, way := range []string{"", "way"} {
+					nth := func(i int) string { return way + string([]byte{byte(at(i))}) }
+					w := x.twin(t, plenty, keyed("", "wax", "waz", "wayz")...)
+					for i := range n {
+						if code := w.put(t, nth(i), uint64(i)); code != api.OK {
+							x.fault(t, 3, "%s: Put(%q): code %d", what, nth(i), code)
+						}
+						w.right(t)
+					}
+					w.whole(t, way, way+"\x00\x00", way+"\xff\xff")
+					if code := w.build(t, w.plain.All()...); code != api.OK {
+						x.fault(t, 3, "%s: Build: code %d", what, code)
+					}
+					w.whole(t, way)
+					for i := range n {
+						w.drop(t, nth(i))
+						w.right(t)
+						w.asked(t, nth(i), i)
+					}
+				}
+			}
+		}
+	})
+}
+
 // orders are all orders of the numbers from 0 up to below n.
 func orders(n int) func(yield func([]int) bool) {
 	var rest func(some []int, yield func([]int) bool) bool

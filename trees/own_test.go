@@ -72,6 +72,29 @@ func TestHandedIn(t *testing.T) {
 	})
 }
 
+// What is told stays as it is when the key that was asked of is written over.
+func TestToldStays(t *testing.T) {
+	each(t, func(t *testing.T, x kind) {
+		w := x.twin(t, plenty, keyed(someKeys()...)...)
+		for _, s := range askedKeys() {
+			for what, ask := range map[string]func(k []byte) []api.Pair{
+				"Floor":   func(k []byte) []api.Pair { p, _ := w.tree.Floor(k); return []api.Pair{p} },
+				"Ceil":    func(k []byte) []api.Pair { p, _ := w.tree.Ceil(k); return []api.Pair{p} },
+				"Longest": func(k []byte) []api.Pair { p, _ := w.tree.Longest(k); return []api.Pair{p} },
+				"From":    func(k []byte) []api.Pair { return w.tree.From(k, 3) },
+			} {
+				k := roomy(s)
+				ps := ask(k)
+				was := told(ps...)
+				spoil(k)
+				if now := told(ps...); now != was {
+					x.fault(t, 1, "R4: %s(%q): it was %s, and is %s when the argument is written over", what, s, was, now)
+				}
+			}
+		}
+	})
+}
+
 // builtOf builds of these keys, and looks whether the list was left as it was,
 // and may be written over.
 func (w *twin) builtOf(t *testing.T, ks []string) {

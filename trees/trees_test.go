@@ -13,6 +13,7 @@ import (
 	"bramble/model"
 	"bramble/need"
 	"bramble/shape"
+	"bramble/ternary"
 )
 
 // tree is what a tree can do, of whatever kind it is.
@@ -48,6 +49,7 @@ type kind struct {
 func kinds() []kind {
 	return []kind{
 		kindOf("critbit", 12, api.Crit, critbit.New),
+		kindOf("ternary", 13, api.Ternary, ternary.New),
 	}
 }
 
